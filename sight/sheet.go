@@ -5,10 +5,8 @@ import (
 	"strings"
 
 	"cippus/api"
+	"cippus/basics"
 )
-
-// maxDigits is how many digits a number of a sheet has at most.
-const maxDigits = 4
 
 // Write returns the sheet of a line.
 func Write(l api.Line) (string, api.Errno) {
@@ -109,7 +107,7 @@ func (r *reader) hand(words []string) bool {
 		if word == "" || word[0] < 'A' || word[0] > 'Z' {
 			return false
 		}
-		n, ok := number(word[1:])
+		n, ok := basics.Number(word[1:])
 		if !ok {
 			return false
 		}
@@ -124,7 +122,7 @@ func (r *reader) marks(words []string) bool {
 		return false
 	}
 	for i, field := range []*int{&r.line.Worn, &r.line.Scratched, &r.line.Total} {
-		n, ok := number(words[i])
+		n, ok := basics.Number(words[i])
 		if !ok {
 			return false
 		}
@@ -137,8 +135,8 @@ func (r *reader) square(words []string) bool {
 	var lights []api.Light
 	for _, word := range words {
 		before, after, _ := strings.Cut(word, "/")
-		shows, first := number(before)
-		seen, second := number(after)
+		shows, first := basics.Number(before)
+		seen, second := basics.Number(after)
 		if !first || !second {
 			return false
 		}
@@ -151,24 +149,9 @@ func (r *reader) square(words []string) bool {
 // year reads a number that may have a sign.
 func year(word string) (int, bool) {
 	digits, below := strings.CutPrefix(word, "-")
-	n, ok := number(digits)
+	n, ok := basics.Number(digits)
 	if !below {
 		return n, ok
 	}
 	return -n, ok && n != 0
-}
-
-// number reads a number without a sign. It returns 0 with false.
-func number(word string) (int, bool) {
-	if word == "" || len(word) > maxDigits || word[0] == '0' && word != "0" {
-		return 0, false
-	}
-	n := 0
-	for i := range len(word) {
-		if word[i] < '0' || word[i] > '9' {
-			return 0, false
-		}
-		n = 10*n + int(word[i]-'0')
-	}
-	return n, true
 }

@@ -1,11 +1,14 @@
 // Package sight is layer 1: see shared/doc/01-sight.md.
 package sight
 
-import "cippus/api"
+import (
+	"cippus/api"
+	"cippus/basics"
+)
 
 // Check returns the first error of a line.
 func Check(l api.Line) api.Errno {
-	if e := checkCount(len(l.Hands), 1, api.MaxHands); e != api.OK {
+	if e := basics.Count(len(l.Hands), 1, api.MaxHands); e != api.OK {
 		return e
 	}
 	for _, hand := range l.Hands {
@@ -13,10 +16,10 @@ func Check(l api.Line) api.Errno {
 			return e
 		}
 	}
-	if outside(l.Worn, 0, api.MaxStrokes) || outside(l.Scratched, 0, api.MaxStrokes) || outside(l.Total, 0, api.MaxMarks) {
+	if basics.Outside(l.Worn, 0, api.MaxStrokes) || basics.Outside(l.Scratched, 0, api.MaxStrokes) || basics.Outside(l.Total, 0, api.MaxMarks) {
 		return api.ErrBounds
 	}
-	if e := checkCount(len(l.Squares), 1, api.MaxSquares); e != api.OK {
+	if e := basics.Count(len(l.Squares), 1, api.MaxSquares); e != api.OK {
 		return e
 	}
 	for _, lights := range l.Squares {
@@ -29,20 +32,20 @@ func Check(l api.Line) api.Errno {
 
 func checkHand(hand api.Hand) api.Errno {
 	years := hand.Years
-	if outside(years.Low, -api.MaxYear, api.MaxYear) || outside(years.High, -api.MaxYear, api.MaxYear) {
+	if basics.Outside(years.Low, -api.MaxYear, api.MaxYear) || basics.Outside(years.High, -api.MaxYear, api.MaxYear) {
 		return api.ErrBounds
 	}
 	if years.Low > years.High {
 		return api.ErrSequence
 	}
-	if e := checkCount(len(hand.Shapes), 1, api.MaxShapes); e != api.OK {
+	if e := basics.Count(len(hand.Shapes), 1, api.MaxShapes); e != api.OK {
 		return e
 	}
 	for i, shape := range hand.Shapes {
 		switch {
 		case shape.Letter < 'A' || shape.Letter > 'Z':
 			return api.ErrSort
-		case outside(shape.Strokes, 1, allStrokes):
+		case basics.Outside(shape.Strokes, 1, allStrokes):
 			return api.ErrBounds
 		case i > 0 && shape.Letter <= hand.Shapes[i-1].Letter:
 			return api.ErrSequence
@@ -56,7 +59,7 @@ func checkSquare(lights []api.Light) api.Errno {
 		return api.ErrMany
 	}
 	for _, light := range lights {
-		if outside(light.Shows, 0, allStrokes) || outside(light.Seen, 0, allStrokes) {
+		if basics.Outside(light.Shows, 0, allStrokes) || basics.Outside(light.Seen, 0, allStrokes) {
 			return api.ErrBounds
 		}
 		if light.Seen&^light.Shows != 0 {
@@ -65,18 +68,6 @@ func checkSquare(lights []api.Light) api.Errno {
 	}
 	return api.OK
 }
-
-func checkCount(n, low, high int) api.Errno {
-	switch {
-	case n < low:
-		return api.ErrFew
-	case n > high:
-		return api.ErrMany
-	}
-	return api.OK
-}
-
-func outside(n, low, high int) bool { return n < low || n > high }
 
 // Hands returns the hands that fit, ascending.
 func Hands(l api.Line) ([]int, api.Errno) {
