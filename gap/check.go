@@ -22,7 +22,7 @@ func Check(x api.Lexicon) api.Errno {
 		return api.ErrShape
 	}
 	for _, width := range x.Widths {
-		if e := checkSpan(width, 1, api.MaxWidth); e != api.OK {
+		if e := basics.Span(width, 1, api.MaxWidth); e != api.OK {
 			return e
 		}
 	}
@@ -51,23 +51,13 @@ func checkWords(words []api.Word, forms int) api.Errno {
 	}
 	for i, word := range words {
 		switch {
-		case basics.Outside(len(word.Text), 1, api.MaxWord) || !isWord(word.Text):
+		case basics.Outside(len(word.Text), 1, api.MaxWord) || !basics.AllLetters(word.Text):
 			return api.ErrShape
 		case basics.Outside(word.Form, 0, forms-1):
 			return api.ErrAbsent
 		case slices.Contains(words[:i], word):
 			return api.ErrTwice
 		}
-	}
-	return api.OK
-}
-
-func checkSpan(s api.Span, low, high int) api.Errno {
-	switch {
-	case basics.Outside(s.Low, low, high) || basics.Outside(s.High, low, high):
-		return api.ErrBounds
-	case s.Low > s.High:
-		return api.ErrSequence
 	}
 	return api.OK
 }
@@ -97,8 +87,8 @@ func checkCell(cell api.Cell) api.Errno {
 	case cell.Gap && cell.Letters != "":
 		return api.ErrShape
 	case cell.Gap:
-		return checkSpan(cell.Width, 0, widest)
-	case !ascending(cell.Letters) || cell.Width != api.Span{}:
+		return basics.Span(cell.Width, 0, widest)
+	case !basics.Ascending(cell.Letters) || cell.Width != api.Span{}:
 		return api.ErrShape
 	}
 	return api.OK

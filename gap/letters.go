@@ -58,28 +58,6 @@ func each[S, T any](list []S, question func(S) T) []T {
 	return told
 }
 
-func isLetter(c byte) bool { return 'A' <= c && c <= 'Z' }
-
-// isWord reports whether a text has letters alone.
-func isWord(text string) bool {
-	for i := range len(text) {
-		if !isLetter(text[i]) {
-			return false
-		}
-	}
-	return true
-}
-
-// ascending reports whether a text has letters alone, each of which comes later in the alphabet than the one ahead of it.
-func ascending(text string) bool {
-	for i := 1; i < len(text); i++ {
-		if text[i] <= text[i-1] {
-			return false
-		}
-	}
-	return isWord(text)
-}
-
 // widths is how wide the letters from A to Z are.
 type widths [alphabet]api.Span
 

@@ -8,6 +8,9 @@ import (
 	"cippus/basics"
 )
 
+// maxDigits is how many digits a number of a row has at most.
+const maxDigits = 4
+
 // Write returns how a row is written.
 func Write(r []api.Cell) (string, api.Errno) {
 	if e := CheckRow(r); e != api.OK {
@@ -38,7 +41,7 @@ cells:
 		var cell api.Cell
 		size := 1
 		switch c := text[at]; {
-		case isLetter(c):
+		case basics.IsLetter(c):
 			cell.Letters = text[at : at+1]
 		case c == '(':
 			cell.Letters, size = readLetters(text[at:])
@@ -66,7 +69,7 @@ cells:
 // readLetters returns the letters in the brackets with which a text begins, and how many bytes they have together, 0 if they are not as said.
 func readLetters(text string) (string, int) {
 	inside, _, closed := strings.Cut(text[1:], ")")
-	if !closed || len(inside) < 2 || !ascending(inside) {
+	if !closed || len(inside) < 2 || !basics.Ascending(inside) {
 		return "", 0
 	}
 	return inside, len(inside) + len("()")
@@ -76,8 +79,8 @@ func readLetters(text string) (string, int) {
 func readWidth(text string) (api.Span, int) {
 	inside, _, closed := strings.Cut(text[1:], "]")
 	before, after, _ := strings.Cut(inside, "-")
-	low, first := basics.Number(before)
-	high, second := basics.Number(after)
+	low, first := basics.Number(before, maxDigits)
+	high, second := basics.Number(after, maxDigits)
 	if !closed || !first || !second {
 		return api.Span{}, 0
 	}

@@ -8,6 +8,9 @@ import (
 	"cippus/basics"
 )
 
+// maxDigits is how many digits a number of a sheet has at most.
+const maxDigits = 4
+
 // Write returns the sheet of a line.
 func Write(l api.Line) (string, api.Errno) {
 	if e := Check(l); e != api.OK {
@@ -107,7 +110,7 @@ func (r *reader) hand(words []string) bool {
 		if word == "" || word[0] < 'A' || word[0] > 'Z' {
 			return false
 		}
-		n, ok := basics.Number(word[1:])
+		n, ok := basics.Number(word[1:], maxDigits)
 		if !ok {
 			return false
 		}
@@ -122,7 +125,7 @@ func (r *reader) marks(words []string) bool {
 		return false
 	}
 	for i, field := range []*int{&r.line.Worn, &r.line.Scratched, &r.line.Total} {
-		n, ok := basics.Number(words[i])
+		n, ok := basics.Number(words[i], maxDigits)
 		if !ok {
 			return false
 		}
@@ -135,8 +138,8 @@ func (r *reader) square(words []string) bool {
 	var lights []api.Light
 	for _, word := range words {
 		before, after, _ := strings.Cut(word, "/")
-		shows, first := basics.Number(before)
-		seen, second := basics.Number(after)
+		shows, first := basics.Number(before, maxDigits)
+		seen, second := basics.Number(after, maxDigits)
 		if !first || !second {
 			return false
 		}
@@ -149,7 +152,7 @@ func (r *reader) square(words []string) bool {
 // year reads a number that may have a sign.
 func year(word string) (int, bool) {
 	digits, below := strings.CutPrefix(word, "-")
-	n, ok := basics.Number(digits)
+	n, ok := basics.Number(digits, maxDigits)
 	if !below {
 		return n, ok
 	}

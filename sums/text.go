@@ -56,8 +56,8 @@ func Read(text string) (l []api.Entry, row int, e api.Errno) {
 // readHead returns the number of entries that the first row names.
 func readHead(row string) (int, bool) {
 	digit, named := strings.CutPrefix(row, "account ")
-	n, ok := basics.Number(digit)
-	return n, named && ok && len(digit) == 1
+	n, ok := basics.Number(digit, 1)
+	return n, named && ok
 }
 
 func readEntry(row string) (api.Entry, bool) {
