@@ -1,7 +1,11 @@
 // Package basics has what the checks and the readers of several layers share.
 package basics
 
-import "cippus/api"
+import (
+	"strings"
+
+	"cippus/api"
+)
 
 // Outside reports whether a number is less than low or greater than high.
 func Outside(n, low, high int) bool { return n < low || n > high }
@@ -41,6 +45,33 @@ func Number(word string, digits int) (int, bool) {
 		n = 10*n + int(word[i]-'0')
 	}
 	return n, true
+}
+
+// Signed reads a number that has a - ahead if it is below 0. It returns 0 with false.
+func Signed(word string, digits int) (int, bool) {
+	digit, below := strings.CutPrefix(word, "-")
+	n, ok := Number(digit, digits)
+	if !below {
+		return n, ok
+	}
+	return -n, ok && n != 0
+}
+
+// Rows has a text read row by row, each given as its words, which are separated by one blank. It returns the number of the first row (from 1 on) that is not ended by a line feed, or that read refuses; the number of the row after the last one if the text has not ended with it; otherwise 0.
+func Rows(text string, read func(words []string) bool, ended func() bool) int {
+	row := 1
+	for text != "" {
+		words, after, whole := strings.Cut(text, "\n")
+		if !whole || !read(strings.Split(words, " ")) {
+			return row
+		}
+		text = after
+		row++
+	}
+	if !ended() {
+		return row
+	}
+	return 0
 }
 
 // IsLetter reports whether a byte is a letter.

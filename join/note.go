@@ -57,16 +57,8 @@ func Read(text string) (h api.Heap, line int, e api.Errno) {
 		return api.Heap{}, 0, api.ErrLong
 	}
 	var r reader
-	for text != "" {
-		line++
-		row, after, ended := strings.Cut(text, "\n")
-		if !ended || !r.row(strings.Split(row, " ")) {
-			return api.Heap{}, line, api.ErrShape
-		}
-		text = after
-	}
-	if r.last != wordEnd {
-		return api.Heap{}, line + 1, api.ErrShape
+	if line := basics.Rows(text, r.row, r.ended); line != 0 {
+		return api.Heap{}, line, api.ErrShape
 	}
 	if e := Check(r.heap); e != api.OK {
 		return api.Heap{}, 0, e
@@ -79,6 +71,8 @@ type reader struct {
 	heap api.Heap
 	last string
 }
+
+func (r *reader) ended() bool { return r.last == wordEnd }
 
 // may reports whether a line that begins with a word may come next. What holds for a sort of lines holds for the sorts ahead of it, too, that fall through to it.
 func (r *reader) may(word string) bool {

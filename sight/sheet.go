@@ -42,16 +42,8 @@ func Read(text string) (l api.Line, row int, e api.Errno) {
 		return api.Line{}, 0, api.ErrLong
 	}
 	var r reader
-	for text != "" {
-		row++
-		words, after, ended := strings.Cut(text, "\n")
-		if !ended || !r.row(strings.Split(words, " ")) {
-			return api.Line{}, row, api.ErrShape
-		}
-		text = after
-	}
-	if r.part != partEnd {
-		return api.Line{}, row + 1, api.ErrShape
+	if row := basics.Rows(text, r.row, r.ended); row != 0 {
+		return api.Line{}, row, api.ErrShape
 	}
 	if e := Check(r.line); e != api.OK {
 		return api.Line{}, 0, e
@@ -71,6 +63,8 @@ type reader struct {
 	line api.Line
 	part int
 }
+
+func (r *reader) ended() bool { return r.part == partEnd }
 
 // row reads one row, given as its words; it returns false if the row is not as said.
 func (r *reader) row(words []string) bool {
@@ -100,8 +94,8 @@ func (r *reader) hand(words []string) bool {
 	if len(words) < 3 {
 		return false
 	}
-	low, first := year(words[0])
-	high, second := year(words[1])
+	low, first := basics.Signed(words[0], maxDigits)
+	high, second := basics.Signed(words[1], maxDigits)
 	if !first || !second {
 		return false
 	}
@@ -147,14 +141,4 @@ func (r *reader) square(words []string) bool {
 	}
 	r.line.Squares = append(r.line.Squares, lights)
 	return true
-}
-
-// year reads a number that may have a sign.
-func year(word string) (int, bool) {
-	digits, below := strings.CutPrefix(word, "-")
-	n, ok := basics.Number(digits, maxDigits)
-	if !below {
-		return n, ok
-	}
-	return -n, ok && n != 0
 }
