@@ -2,6 +2,8 @@
 package basics
 
 import (
+	"iter"
+	"slices"
 	"strings"
 
 	"cippus/api"
@@ -32,6 +34,33 @@ func Span(s api.Span, low, high int) api.Errno {
 	return api.OK
 }
 
+// Years returns the first error of a span of years.
+func Years(s api.Span) api.Errno { return Span(s, -api.MaxYear, api.MaxYear) }
+
+// Common returns the numbers that both spans have. It is empty, Low greater than High, if there is none.
+func Common(s, t api.Span) api.Span {
+	return api.Span{Low: max(s.Low, t.Low), High: min(s.High, t.High)}
+}
+
+// Lists hands out all lists of so many of the numbers from 0 to below n, ascending, in lexicographic order.
+func Lists(n, size int) iter.Seq[[]int] {
+	return func(yield func([]int) bool) {
+		var extend func(list []int, next int) bool
+		extend = func(list []int, next int) bool {
+			if len(list) == size {
+				return yield(slices.Clone(list))
+			}
+			for i := next; i < n; i++ {
+				if !extend(append(list, i), i+1) {
+					return false
+				}
+			}
+			return true
+		}
+		extend(nil, 0)
+	}
+}
+
 // Number reads a decimal number of at most so many digits, without a sign and needless zeros. It returns 0 with false.
 func Number(word string, digits int) (int, bool) {
 	if word == "" || len(word) > digits || word[0] == '0' && word != "0" {
@@ -57,12 +86,33 @@ func Signed(word string, digits int) (int, bool) {
 	return -n, ok && n != 0
 }
 
-// Rows has a text read row by row, each given as its words, which are separated by one blank. It returns the number of the first row (from 1 on) that is not ended by a line feed, or that read refuses; the number of the row after the last one if the text has not ended with it; otherwise 0.
+// AllSigned reads words that are numbers with a - ahead if they are below 0. It returns nil with false.
+func AllSigned(words []string, digits int) ([]int, bool) {
+	var numbers []int
+	for _, word := range words {
+		n, ok := Signed(word, digits)
+		if !ok {
+			return nil, false
+		}
+		numbers = append(numbers, n)
+	}
+	return numbers, true
+}
+
+// SpanOf returns the span of the first two of some numbers.
+func SpanOf(numbers []int) api.Span { return api.Span{Low: numbers[0], High: numbers[1]} }
+
+// Rows has a text read row by row, each given as its words, which are separated by one blank. It returns what Lines returns.
 func Rows(text string, read func(words []string) bool, ended func() bool) int {
+	return Lines(text, func(row string) bool { return read(strings.Split(row, " ")) }, ended)
+}
+
+// Lines has a text read row by row. It returns the number of the first row (from 1 on) that is not ended by a line feed, or that read refuses; the number of the row after the last one if the text has not ended with it; otherwise 0.
+func Lines(text string, read func(row string) bool, ended func() bool) int {
 	row := 1
 	for text != "" {
-		words, after, whole := strings.Cut(text, "\n")
-		if !whole || !read(strings.Split(words, " ")) {
+		first, after, whole := strings.Cut(text, "\n")
+		if !whole || !read(first) {
 			return row
 		}
 		text = after

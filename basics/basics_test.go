@@ -2,6 +2,8 @@ package basics
 
 import (
 	"math"
+	"reflect"
+	"slices"
 	"strings"
 	"testing"
 
@@ -46,6 +48,44 @@ func TestSigned(t *testing.T) {
 	}
 }
 
+func TestAllSigned(t *testing.T) {
+	for text, want := range map[string][]int{"0": {0}, "7 -7 0": {7, -7, 0}, "99 -99": {99, -99}} {
+		if n, ok := AllSigned(strings.Fields(text), 2); !slices.Equal(n, want) || !ok {
+			t.Error(text, n, ok)
+		}
+	}
+	if n, ok := AllSigned(nil, 2); n != nil || !ok {
+		t.Error(n, ok)
+	}
+	for _, words := range [][]string{{""}, {"1", ""}, {"1", "-0", "2"}, {"100"}, {"1", "2", "-100"}, {"x", "1"}} {
+		if n, ok := AllSigned(words, 2); n != nil || ok {
+			t.Error(words, n, ok)
+		}
+	}
+	if s := SpanOf([]int{-7, 9, 5}); s != (api.Span{Low: -7, High: 9}) {
+		t.Error(s)
+	}
+}
+
+// TestLines has rows with a sign that Rows would part.
+func TestLines(t *testing.T) {
+	var rows []string
+	read := func(row string) bool {
+		rows = append(rows, row)
+		return row != "no, no"
+	}
+	for text, want := range map[string]int{"a b, c\n\nend\n": 0, "": 0, "a, b": 1, "a\nb": 2, "no, no\n": 1, "a\nno, no\nb": 2} {
+		rows = nil
+		if got := Lines(text, read, func() bool { return true }); got != want || !strings.HasPrefix(text, strings.Join(rows, "\n")) {
+			t.Errorf("%q: %d, not %d, %q", text, got, want, rows)
+		}
+		rows = nil
+		if got := Lines(text, read, func() bool { return false }); want == 0 && got != strings.Count(text, "\n")+1 || want != 0 && got != want {
+			t.Errorf("%q: %d", text, got)
+		}
+	}
+}
+
 func TestRows(t *testing.T) {
 	for text, want := range map[string]int{
 		"end\n": 0, "a\nend\n": 0, "a b\n\n c \nend\n": 0, "": 1, "a\n": 2, "a\nb\n": 3, "end": 1, "a\nend": 2, "a": 1, "a\n\n\n": 4,
@@ -80,6 +120,46 @@ func TestSpan(t *testing.T) {
 		if e := Span(s, 2, 4); e != want {
 			t.Error(s, e)
 		}
+	}
+}
+
+func TestYears(t *testing.T) {
+	for s, want := range map[api.Span]api.Errno{
+		{Low: -3000, High: 3000}: api.OK, {Low: 3000, High: 3000}: api.OK, {Low: -3000, High: -3000}: api.OK, {}: api.OK, {Low: 1, High: 0}: api.ErrSequence,
+		{Low: -3001, High: 0}: api.ErrBounds, {Low: 0, High: 3001}: api.ErrBounds, {Low: 3001, High: 0}: api.ErrBounds,
+	} {
+		if e := Years(s); e != want {
+			t.Error(s, e)
+		}
+	}
+}
+
+func TestCommon(t *testing.T) {
+	span := func(low, high int) api.Span { return api.Span{Low: low, High: high} }
+	for i, c := range []struct{ s, t, want api.Span }{
+		{span(1, 5), span(3, 9), span(3, 5)}, {span(1, 9), span(3, 5), span(3, 5)}, {span(1, 3), span(3, 5), span(3, 3)}, {span(1, 2), span(4, 5), span(4, 2)}, {span(-5, 5), span(-5, 5), span(-5, 5)},
+	} {
+		if a, b := Common(c.s, c.t), Common(c.t, c.s); a != c.want || b != c.want {
+			t.Error(i, a, b)
+		}
+	}
+}
+
+// TestLists tests that lists come in order, and none twice.
+func TestLists(t *testing.T) {
+	for size, want := range [][][]int{{nil}, {{0}, {1}, {2}, {3}}, {{0, 1}, {0, 2}, {0, 3}, {1, 2}, {1, 3}, {2, 3}}, {{0, 1, 2}, {0, 1, 3}, {0, 2, 3}, {1, 2, 3}}, {{0, 1, 2, 3}}, nil} {
+		if got := slices.Collect(Lists(4, size)); !reflect.DeepEqual(got, want) {
+			t.Error(size, got)
+		}
+	}
+	for range Lists(0, 1) {
+		t.Error("a list of no numbers")
+	}
+	for list := range Lists(9, 3) {
+		if list = append(list, 7); !slices.Equal(list, []int{0, 1, 2, 7}) {
+			t.Error(list)
+		}
+		break
 	}
 }
 

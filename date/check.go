@@ -14,7 +14,7 @@ func Check(d api.Dating) api.Errno {
 		return api.ErrMany
 	}
 	for _, firsts := range d.Eras {
-		if e := checkSpan(firsts); e != api.OK {
+		if e := basics.Years(firsts); e != api.OK {
 			return e
 		}
 	}
@@ -30,8 +30,6 @@ func Check(d api.Dating) api.Errno {
 }
 
 func isYear(n int) bool { return !basics.Outside(n, -api.MaxYear, api.MaxYear) }
-
-func checkSpan(s api.Span) api.Errno { return basics.Span(s, -api.MaxYear, api.MaxYear) }
 
 func checkNote(d api.Dating, n api.Note) api.Errno {
 	switch {
@@ -65,7 +63,7 @@ func (n within) check(api.Dating) api.Errno {
 	if n.Other != 0 || len(n.Years) > 0 {
 		return api.ErrShape
 	}
-	return checkSpan(n.Span)
+	return basics.Years(n.Span)
 }
 
 func (n inEra) check(d api.Dating) api.Errno {
@@ -75,7 +73,7 @@ func (n inEra) check(d api.Dating) api.Errno {
 	case len(n.Years) > 0:
 		return api.ErrShape
 	}
-	if e := checkSpan(n.Span); e != api.OK {
+	if e := basics.Years(n.Span); e != api.OK {
 		return e
 	}
 	if n.Span.Low < 1 {
@@ -91,5 +89,5 @@ func (n after) check(d api.Dating) api.Errno {
 	case n.Other == n.Stone || len(n.Years) > 0:
 		return api.ErrShape
 	}
-	return checkSpan(n.Span)
+	return basics.Years(n.Span)
 }

@@ -94,7 +94,7 @@ func (r *reader) ended() bool { return r.part == partEnd }
 
 // row reads one row, given as its words; it returns false if the row is not as said.
 func (r *reader) row(words []string) bool {
-	numbers, ok := readNumbers(words[1:])
+	numbers, ok := basics.AllSigned(words[1:], maxDigits)
 	if !ok || (words[0] == wordStones) != (r.part == partStones) || r.ended() {
 		return false
 	}
@@ -125,7 +125,7 @@ func (r *reader) era(numbers []int) bool {
 	if r.part != partEras || len(numbers) != 2 {
 		return false
 	}
-	r.dating.Eras = append(r.dating.Eras, spanOf(numbers))
+	r.dating.Eras = append(r.dating.Eras, basics.SpanOf(numbers))
 	return true
 }
 
@@ -135,26 +135,11 @@ func readNote(word string, numbers []int) (api.Note, bool) {
 	case word == wordYears && len(numbers) >= 2:
 		return api.Note{Kind: api.NoteYears, Stone: numbers[0], Years: numbers[1:]}, true
 	case word == wordSpan && len(numbers) == 3:
-		return api.Note{Kind: api.NoteSpan, Stone: numbers[0], Span: spanOf(numbers[1:])}, true
+		return api.Note{Kind: api.NoteSpan, Stone: numbers[0], Span: basics.SpanOf(numbers[1:])}, true
 	case word == wordOf && len(numbers) == 4:
-		return api.Note{Kind: api.NoteEra, Stone: numbers[0], Other: numbers[1], Span: spanOf(numbers[2:])}, true
+		return api.Note{Kind: api.NoteEra, Stone: numbers[0], Other: numbers[1], Span: basics.SpanOf(numbers[2:])}, true
 	case word == wordAfter && len(numbers) == 4:
-		return api.Note{Kind: api.NoteAfter, Stone: numbers[0], Other: numbers[1], Span: spanOf(numbers[2:])}, true
+		return api.Note{Kind: api.NoteAfter, Stone: numbers[0], Other: numbers[1], Span: basics.SpanOf(numbers[2:])}, true
 	}
 	return api.Note{}, false
-}
-
-// spanOf returns the span of two numbers.
-func spanOf(two []int) api.Span { return api.Span{Low: two[0], High: two[1]} }
-
-func readNumbers(words []string) ([]int, bool) {
-	var numbers []int
-	for _, word := range words {
-		n, ok := basics.Signed(word, maxDigits)
-		if !ok {
-			return nil, false
-		}
-		numbers = append(numbers, n)
-	}
-	return numbers, true
 }

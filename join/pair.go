@@ -41,7 +41,7 @@ func (p pair) refusal() (api.Witness, bool) {
 }
 
 func (p pair) byThick() (api.Witness, bool) {
-	return api.Witness{Reason: api.ByThick}, empty(common(p.left().Thick, p.right().Thick))
+	return api.Witness{Reason: api.ByThick}, empty(basics.Common(p.left().Thick, p.right().Thick))
 }
 
 func (p pair) byStrips() (api.Witness, bool) {
@@ -53,7 +53,7 @@ func (p pair) byBreak() (api.Witness, bool) {
 	strips := p.strips()
 	for i, first := range strips {
 		for _, second := range strips[i+1:] {
-			if empty(common(p.distances(first), p.distances(second))) {
+			if empty(basics.Common(p.distances(first), p.distances(second))) {
 				return api.Witness{Reason: api.ByBreak, First: first, Second: second}, true
 			}
 		}
@@ -148,11 +148,6 @@ func within(s api.Span) iter.Seq[int] {
 			}
 		}
 	}
-}
-
-// common returns the numbers that both spans have.
-func common(s, t api.Span) api.Span {
-	return api.Span{Low: max(s.Low, t.Low), High: min(s.High, t.High)}
 }
 
 func empty(s api.Span) bool { return s.Low > s.High }

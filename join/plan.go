@@ -66,7 +66,7 @@ func stoneMayBe(h api.Heap, next []int, piece int) bool {
 	thick, lines := h.Pieces[piece].Thick, firstsOf(h.Pieces[piece].Base)
 	for next[piece] != none {
 		right := next[piece]
-		thick = common(thick, h.Pieces[right].Thick)
+		thick = basics.Common(thick, h.Pieces[right].Thick)
 		lines = joined(h, piece, right, lines)
 		if empty(thick) || lines == (firsts{}) {
 			return false

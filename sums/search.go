@@ -1,7 +1,6 @@
 package sums
 
 import (
-	"iter"
 	"slices"
 
 	"cippus/api"
@@ -78,23 +77,4 @@ func (a account) without(struck ...int) account {
 		}
 	}
 	return left
-}
-
-// lists hands out all lists of so many entries, ascending, in lexicographic order.
-func (a account) lists(size int) iter.Seq[[]int] {
-	return func(yield func([]int) bool) {
-		var extend func(list []int, next int) bool
-		extend = func(list []int, next int) bool {
-			if len(list) == size {
-				return yield(slices.Clone(list))
-			}
-			for i := next; i < len(a); i++ {
-				if !extend(append(list, i), i+1) {
-					return false
-				}
-			}
-			return true
-		}
-		extend(nil, 0)
-	}
 }

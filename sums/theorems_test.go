@@ -223,16 +223,6 @@ func TestStruckP3_11(t *testing.T) {
 	}
 }
 
-// TestListsP3_11 tests that what may be struck out comes in order, and nothing twice.
-func TestListsP3_11(t *testing.T) {
-	a := make(account, 4)
-	for size, want := range [][][]int{{nil}, {{0}, {1}, {2}, {3}}, {{0, 1}, {0, 2}, {0, 3}, {1, 2}, {1, 3}, {2, 3}}, {{0, 1, 2}, {0, 1, 3}, {0, 2, 3}, {1, 2, 3}}, {{0, 1, 2, 3}}, nil} {
-		if got := slices.Collect(a.lists(size)); !sameLists(got, want) {
-			t.Error(size, got)
-		}
-	}
-}
-
 func TestMovedP3_12(t *testing.T) {
 	moved := 0
 	for i, s := range smalls() {
