@@ -42,6 +42,22 @@ func Common(s, t api.Span) api.Span {
 	return api.Span{Low: max(s.Low, t.Low), High: min(s.High, t.High)}
 }
 
+// Joined returns the numbers from the least to the greatest one of two spans.
+func Joined(s, t api.Span) api.Span {
+	return api.Span{Low: min(s.Low, t.Low), High: max(s.High, t.High)}
+}
+
+// Verdict tells of all truths, if something is so in all of them, or in some.
+func Verdict(always, sometimes bool) int {
+	switch {
+	case always:
+		return api.Yes
+	case sometimes:
+		return api.Open
+	}
+	return api.No
+}
+
 // Lists hands out all lists of so many of the numbers from 0 to below n, ascending, in lexicographic order.
 func Lists(n, size int) iter.Seq[[]int] {
 	return func(yield func([]int) bool) {

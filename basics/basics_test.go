@@ -145,6 +145,23 @@ func TestCommon(t *testing.T) {
 	}
 }
 
+func TestJoined(t *testing.T) {
+	span := func(low, high int) api.Span { return api.Span{Low: low, High: high} }
+	for i, c := range []struct{ s, t, want api.Span }{
+		{span(1, 5), span(3, 9), span(1, 9)}, {span(1, 9), span(3, 5), span(1, 9)}, {span(1, 3), span(3, 5), span(1, 5)}, {span(1, 2), span(4, 5), span(1, 5)}, {span(-5, 5), span(-5, 5), span(-5, 5)}, {span(-7, -7), span(-9, -9), span(-9, -7)},
+	} {
+		if a, b := Joined(c.s, c.t), Joined(c.t, c.s); a != c.want || b != c.want {
+			t.Error(i, a, b)
+		}
+	}
+}
+
+func TestVerdict(t *testing.T) {
+	if Verdict(true, true) != api.Yes || Verdict(false, true) != api.Open || Verdict(false, false) != api.No {
+		t.Error(Verdict(true, true), Verdict(false, true), Verdict(false, false))
+	}
+}
+
 // TestLists tests that lists come in order, and none twice.
 func TestLists(t *testing.T) {
 	for size, want := range [][][]int{{nil}, {{0}, {1}, {2}, {3}}, {{0, 1}, {0, 2}, {0, 3}, {1, 2}, {1, 3}, {2, 3}}, {{0, 1, 2}, {0, 1, 3}, {0, 2, 3}, {1, 2, 3}}, {{0, 1, 2, 3}}, nil} {

@@ -1,6 +1,9 @@
 package stemma
 
-import "cippus/api"
+import (
+	"cippus/api"
+	"cippus/basics"
+)
 
 // truth is all truths that have the same sources, and how many errors there are at least in one of them.
 type truth struct {
@@ -50,13 +53,7 @@ type tally struct {
 
 // verdict returns what all truths together say of a question.
 func (t *tally) verdict(i int) int {
-	switch t.of(i) {
-	case t.truths:
-		return api.Yes
-	case 0:
-		return api.No
-	}
-	return api.Open
+	return basics.Verdict(t.of(i) == t.truths, t.of(i) > 0)
 }
 
 // verdicts returns the verdict on each question.
