@@ -4,6 +4,7 @@ package basics
 import (
 	"iter"
 	"slices"
+	"strconv"
 	"strings"
 
 	"cippus/api"
@@ -113,6 +114,15 @@ func AllSigned(words []string, digits int) ([]int, bool) {
 		numbers = append(numbers, n)
 	}
 	return numbers, true
+}
+
+// Decimal returns some numbers, with a separator between each two.
+func Decimal(separator string, numbers ...int) string {
+	var words []string
+	for _, n := range numbers {
+		words = append(words, strconv.Itoa(n))
+	}
+	return strings.Join(words, separator)
 }
 
 // SpanOf returns the span of the first two of some numbers.

@@ -67,6 +67,17 @@ func TestAllSigned(t *testing.T) {
 	}
 }
 
+func TestDecimal(t *testing.T) {
+	for want, numbers := range map[string][]int{"": nil, "0": {0}, "-7": {-7}, "1, 2": {1, 2}, "10, -10, 0, 9999": {10, -10, 0, 9999}, "-9223372036854775808, 9223372036854775807": {math.MinInt, math.MaxInt}} {
+		if s := Decimal(", ", numbers...); s != want {
+			t.Errorf("%q, not %q", s, want)
+		}
+	}
+	if s := Decimal("", 1, 0, 1); s != "101" {
+		t.Error(s)
+	}
+}
+
 // TestLines has rows with a sign that Rows would part.
 func TestLines(t *testing.T) {
 	var rows []string

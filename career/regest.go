@@ -63,10 +63,7 @@ func Write(r api.Roll) (string, api.Errno) {
 
 // row returns a row of a word and numbers.
 func row(word string, numbers ...int) string {
-	for _, n := range numbers {
-		word += separator + strconv.Itoa(n)
-	}
-	return word
+	return word + separator + basics.Decimal(separator, numbers...)
 }
 
 // letters returns the word of a town.

@@ -1,7 +1,6 @@
 package date
 
 import (
-	"strconv"
 	"strings"
 
 	"cippus/api"
@@ -55,10 +54,7 @@ func noteRow(n note) string {
 
 // row returns a row of a word and numbers.
 func row(word string, numbers ...int) string {
-	for _, n := range numbers {
-		word += " " + strconv.Itoa(n)
-	}
-	return word + "\n"
+	return word + " " + basics.Decimal(" ", numbers...) + "\n"
 }
 
 // Read returns the dating of a table; with ErrShape for a row that is not as said, its number.

@@ -47,12 +47,12 @@ func Write(d api.Dossier) (string, api.Errno) {
 		return "", e
 	}
 	var text strings.Builder
-	text.WriteString(line(sortHead, decimal(slash, d.Begin, d.Most, d.Shops)))
+	text.WriteString(line(sortHead, basics.Decimal(slash, d.Begin, d.Most, d.Shops)))
 	for _, t := range d.Traits {
-		text.WriteString(line(sortTrait, decimal(slash, t.From.Low, t.From.High, t.Until.Low, t.Until.High, t.Known.Low, t.Known.High)))
+		text.WriteString(line(sortTrait, basics.Decimal(slash, t.From.Low, t.From.High, t.Until.Low, t.Until.High, t.Known.Low, t.Known.High)))
 	}
 	for _, c := range d.Cases {
-		years := decimal(slash, c.Cut.Low, c.Cut.High, c.Seen.Low, c.Seen.High)
+		years := basics.Decimal(slash, c.Cut.Low, c.Cut.High, c.Seen.Low, c.Seen.High)
 		text.WriteString(line(sortCase, showsText(c.Shows), years, shopText(c.Shop)))
 	}
 	text.WriteString(line(sortShut))
@@ -64,20 +64,11 @@ func line(sort int, texts ...string) string {
 	return strings.Join(append([]string{begins[sort].word}, texts...), slash) + "\n"
 }
 
-// decimal returns some numbers with a separator between each two.
-func decimal(separator string, numbers ...int) string {
-	var list []string
-	for _, n := range numbers {
-		list = append(list, strconv.Itoa(n))
-	}
-	return strings.Join(list, separator)
-}
-
 func showsText(shows []int) string {
 	if len(shows) == 0 {
 		return wordNone
 	}
-	return decimal(blank, shows...)
+	return basics.Decimal(blank, shows...)
 }
 
 func shopText(shop int) string {
