@@ -172,3 +172,12 @@ func Ascending(text string) bool {
 	}
 	return AllLetters(text)
 }
+
+// Edition returns an edition that shares no memory with d.
+func Edition(d api.Edition) api.Edition {
+	d.Slabs = slices.Clone(d.Slabs)
+	for i, s := range d.Slabs {
+		d.Slabs[i] = api.Slab{Numbers: slices.Clone(s.Numbers), Lines: slices.Clone(s.Lines)}
+	}
+	return d
+}

@@ -201,3 +201,32 @@ func TestLetters(t *testing.T) {
 		}
 	}
 }
+
+func TestEdition(t *testing.T) {
+	example := func() api.Edition {
+		slab := api.Slab{Numbers: append(make([]int, 0, 9), 5, 1), Lines: append(make([]string, 0, 9), "ARMA", "T")}
+		return api.Edition{Books: 2, Slabs: []api.Slab{slab, {Numbers: []int{0, 2}, Lines: []string{"CANO"}}}}
+	}
+	spoil := func(d api.Edition) {
+		for i := range d.Slabs {
+			clear(d.Slabs[i].Numbers)
+			clear(d.Slabs[i].Lines)
+		}
+		clear(d.Slabs)
+	}
+	d := example()
+	c := Edition(d)
+	if !reflect.DeepEqual(c, d) {
+		t.Error(c)
+	}
+	if spoil(c); !reflect.DeepEqual(d, example()) {
+		t.Error(d)
+	}
+	c = Edition(d)
+	if spoil(d); !reflect.DeepEqual(c, example()) {
+		t.Error(c)
+	}
+	if x := Edition(api.Edition{}); len(x.Slabs) != 0 || x.Books != 0 {
+		t.Error(x)
+	}
+}

@@ -59,7 +59,7 @@ func changed(d api.Edition, l []api.Change) (api.Edition, error) {
 	if err != nil {
 		return api.Edition{}, err
 	}
-	next := cloned(d)
+	next := basics.Edition(d)
 	for slab, s := range next.Slabs {
 		for line, text := range s.Lines {
 			others := func(x edit) bool { return x.slab != slab || x.Line != line }
